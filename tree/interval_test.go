@@ -151,6 +151,30 @@ func TestIntervalNow(t *testing.T) {
 	}
 }
 
+// The intervals of children lie in the order in which these came, however often they are dealt: of two nodes that stand apart
+// the same one is always the one ahead.
+func TestOrderStays(t *testing.T) {
+	for _, upper := range []uint64{900, 5000, 1 << 62} {
+		for i, choose := range habits() {
+			b := narrow(upper)
+			chance := rand.New(rand.NewSource(int64(i)))
+			for b.t.Len() < 400 {
+				b.add(t, choose(chance, b.t.Len()))
+				l := b.intervals(t)
+				last := make([]uint64, len(l))
+				for n, p := range b.m.parents {
+					if n > 0 && l[n].lower <= last[p] {
+						t.Fatalf("up to %d: %d lies ahead of an earlier child of %d", upper, n, p)
+					}
+					if n > 0 {
+						last[p] = l[n].upper
+					}
+				}
+			}
+		}
+	}
+}
+
 // Of many nodes each call still ends soon, and intervals are such as is said.
 func TestMany(t *testing.T) {
 	const n = 100000

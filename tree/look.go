@@ -46,7 +46,8 @@ func (t *Tree) Size(n int) (int, api.Errno) {
 	return len(t.below(n, nobody)), api.OK
 }
 
-// Interval answers a node's lower and its upper number, as they are now.
+// Interval answers a node's lower and its upper number, as they are now. Of two nodes of which neither stands under the other
+// one, the same one always has the lower numbers, though they are dealt anew.
 func (t *Tree) Interval(n int) (uint64, uint64, api.Errno) {
 	if e := t.refused(n); e != api.OK {
 		return 0, 0, e
